@@ -3,6 +3,7 @@ package tests
 import (
 	"fmt"
 	"math"
+	"reflect"
 	"slices"
 	"strings"
 	"testing"
@@ -142,18 +143,22 @@ func wantNone(t *testing.T, got []int, ok bool, call ...any) {
 	}
 }
 
-// outcome is what a function answers: its lists, and all of its results as a text.
+// outcome is what a function answers: its lists, all of its results as a text, and whether they
+// are zero values alone, as those of a failed call are.
 type outcome struct {
-	lists [][]int
-	text  string
+	lists  [][]int
+	text   string
+	failed bool
 }
 
 func outcomeOf(results ...any) outcome {
-	o := outcome{text: fmt.Sprintf("%v", results)}
+	o := outcome{text: fmt.Sprintf("%v", results), failed: true}
 	for _, r := range results {
-		if list, ok := r.([]int); ok {
+		list, isList := r.([]int)
+		if isList {
 			o.lists = append(o.lists, list)
 		}
+		o.failed = o.failed && (isList && len(list) == 0 || reflect.ValueOf(r).IsZero())
 	}
 	return o
 }

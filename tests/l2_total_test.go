@@ -7,31 +7,36 @@ import (
 	"loop.example/g01206/impl"
 )
 
-// failed is the text of a failed call: zero values alone.
-func failed(name string) string {
-	switch name {
-	case "IsReduced", "AreConjugate", "LessWord":
-		return "[false false]"
-	case "NailsOf":
-		return "[0 false]"
-	case "CountLetters":
-		return "[[0 0 0 0 0 0 0] false]"
-	case "WordText":
-		return "[ false]"
-	case "CoreOf":
-		return "[[] [] false]"
-	}
-	return "[[] false]"
-}
-
-func TestFunctionsOfOneWordRefuseWhatIsNone(t *testing.T) {
-	for _, c := range oneWordCalls() {
+// refuseNoWords checks that functions fail if their first list is no word, whatever the second.
+func refuseNoWords(t *testing.T, calls []wordCall, second ...[]int) {
+	t.Helper()
+	for _, c := range calls {
 		for _, w := range noWords() {
-			if got := c.call(w, nil).text; got != failed(c.name) {
-				t.Errorf("%s(%v) = %s", c.name, w, got)
+			for _, v := range second {
+				if got := c.call(w, v); !got.failed {
+					t.Errorf("%s(%v, %v) = %s", c.name, w, v, got.text)
+				}
 			}
 		}
 	}
+}
+
+// exchanged returns the calls with their two lists exchanged.
+func exchanged(calls []wordCall) []wordCall {
+	turned := []wordCall{}
+	for _, c := range calls {
+		turned = append(turned, wordCall{c.name, func(u, v []int) outcome { return c.call(v, u) }})
+	}
+	return turned
+}
+
+// wordsOfAllKinds are valid words and others, which stand beside those that are none.
+func wordsOfAllKinds() [][]int {
+	return append(noWords(), nil, []int{1}, []int{1, -1}, repeated(1, impl.MaxWord), slices.Repeat([]int{1, -1}, 32))
+}
+
+func TestFunctionsOfOneWordRefuseWhatIsNone(t *testing.T) {
+	refuseNoWords(t, oneWordCalls(), nil)
 	for _, w := range noWords() {
 		for n := -9; n <= 9; n++ {
 			got, ok := impl.PowerWord(w, n)
@@ -43,23 +48,14 @@ func TestFunctionsOfOneWordRefuseWhatIsNone(t *testing.T) {
 }
 
 func TestFunctionsOfTwoWordsRefuseWhatIsNone(t *testing.T) {
-	for _, c := range twoWordCalls() {
-		for _, w := range noWords() {
-			for _, v := range [][]int{nil, {1}, {1, -1}, {-7}, w, repeated(1, impl.MaxWord), opposite(w)} {
-				if got := c.call(w, v).text; got != failed(c.name) {
-					t.Errorf("%s(%v, %v) = %s", c.name, w, v, got)
-				}
-				if got := c.call(v, w).text; got != failed(c.name) {
-					t.Errorf("%s(%v, %v) = %s", c.name, v, w, got)
-				}
-			}
-		}
-	}
+	refuseNoWords(t, twoWordCalls(), wordsOfAllKinds()...)
+	refuseNoWords(t, exchanged(twoWordCalls()), wordsOfAllKinds()...)
 }
 
-// A nil slice and an empty one are the same word.
-func TestNilIsTheEmptyWord(t *testing.T) {
-	for _, c := range append(oneWordCalls(), twoWordCalls()...) {
+// takeNilAsEmpty checks that a nil slice and an empty one are the same word.
+func takeNilAsEmpty(t *testing.T, calls []wordCall) {
+	t.Helper()
+	for _, c := range calls {
 		for _, w := range [][]int{nil, {1}, {2, -2}} {
 			if a, b := c.call(nil, w).text, c.call([]int{}, w).text; a != b {
 				t.Errorf("%s of nil and of []: %s and %s", c.name, a, b)
@@ -69,6 +65,10 @@ func TestNilIsTheEmptyWord(t *testing.T) {
 			}
 		}
 	}
+}
+
+func TestNilIsTheEmptyWord(t *testing.T) {
+	takeNilAsEmpty(t, append(oneWordCalls(), twoWordCalls()...))
 }
 
 // wordPairs are arguments of which each is in the midst of a longer slice, with spare room.
@@ -93,9 +93,12 @@ func withRoom(w []int) ([]int, []int) {
 	return room[3 : 3+len(w)], room
 }
 
-func TestFunctionsOfWordsLeaveArgumentsAlone(t *testing.T) {
-	for _, c := range append(oneWordCalls(), twoWordCalls()...) {
-		for _, pair := range wordPairs() {
+// leaveAlone checks that functions change no argument, and that an answer shares no memory with
+// an argument, with another one or with a later one.
+func leaveAlone(t *testing.T, calls []wordCall, pairs [][2][]int) {
+	t.Helper()
+	for _, c := range calls {
+		for _, pair := range pairs {
 			u, roomOfU := withRoom(pair[0])
 			v, roomOfV := withRoom(pair[1])
 			beforeU, beforeV := slices.Clone(roomOfU), slices.Clone(roomOfV)
@@ -119,11 +122,17 @@ func TestFunctionsOfWordsLeaveArgumentsAlone(t *testing.T) {
 	}
 }
 
-// A list that is given twice, or of which one argument is a part of the other one.
-func TestArgumentsMayShareMemory(t *testing.T) {
-	room := joined([]int{1, 2, -2, 3, -1, 4, 4}, repeated(5, 80))
+func TestFunctionsOfWordsLeaveArgumentsAlone(t *testing.T) {
+	leaveAlone(t, append(oneWordCalls(), twoWordCalls()...), wordPairs())
+}
+
+// takeSharedMemory checks functions whose arguments are parts of a list of seven numbers: all of
+// it, given twice, or parts that overlap or are beside each other.
+func takeSharedMemory(t *testing.T, calls []wordCall, list []int) {
+	t.Helper()
+	room := joined(list, repeated(5, 80))
 	before := slices.Clone(room)
-	for _, c := range twoWordCalls() {
+	for _, c := range calls {
 		for _, ends := range [][4]int{{0, 7, 0, 7}, {0, 5, 2, 7}, {2, 7, 0, 5}, {0, 3, 3, 7}, {3, 7, 0, 3}, {0, 0, 0, 7}} {
 			u, v := room[ends[0]:ends[1]], room[ends[2]:ends[3]]
 			got, want := c.call(u, v).text, c.call(slices.Clone(u), slices.Clone(v)).text
@@ -132,6 +141,10 @@ func TestArgumentsMayShareMemory(t *testing.T) {
 			}
 		}
 	}
+}
+
+func TestArgumentsMayShareMemory(t *testing.T) {
+	takeSharedMemory(t, twoWordCalls(), []int{1, 2, -2, 3, -1, 4, 4})
 }
 
 // spoil changes all numbers of a list, and those in the room behind it.
